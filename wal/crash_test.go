@@ -10,7 +10,7 @@ import (
 	"tailrace/wal"
 )
 
-// steps tells what is on a disk behind each of the calls that open makes to it, one after the other, as fuses and crashes show it.
+// steps tells what is on a disk ahead of each call that is made to it, as fuses and crashes show it.
 func steps(t *testing.T, was files, prepare func(d *disk.Disk) func() api.Errno) []files {
 	t.Helper()
 	var l []files
@@ -55,7 +55,7 @@ func TestOrderOfOpen(t *testing.T) {
 	a, b, c := r(5, 6), r(7), r(8, 9)
 	for _, x := range []struct {
 		after uint64
-		want  []files // the first as it was, and one behind each call but the Sync
+		want  []files // ahead of each call to the disk, the Sync as the last one
 	}{
 		{4, []files{{n(5): a, n(7): b, n(8): c}}},
 		{9, []files{{n(5): a, n(7): b, n(8): c}}},

@@ -289,8 +289,8 @@ func TestOpenOfManyFiles(t *testing.T) {
 	onDisk(t, d, files{})
 }
 
-// 5.1 and 5.2: a frame of just as many bytes as are read may be a batch's, as far as its length goes.
-func TestFramesOfAJournal(t *testing.T) {
+// 5.2 and 5.3: batches with every edge of what is right, journaled and told as they were.
+func TestEveryRightBatchIsJournaled(t *testing.T) {
 	d := made(t, 99999)
 	l := opens(t, d, 0)
 	var all []byte

@@ -240,7 +240,7 @@ func TestFilesOfOtherNames(t *testing.T) {
 	}
 }
 
-// misfits tells what does not fit behind a batch of epoch 2, and not at the beginning either, but for its epoch alone.
+// misfits tells bytes that begin with no batch, wherever they stand.
 func misfits(t testing.TB) files {
 	f := files{}
 	rec := records(t, 3)
