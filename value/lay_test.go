@@ -136,14 +136,25 @@ func TestReadCutOff(t *testing.T) {
 	readsOf(t, "\x03\x80", unset, api.OK, api.ErrShort)
 }
 
-// 13.3: each byte turned to each other one: what comes of it is what the bytes say.
+// turns tells what a byte is turned to: near the beginning all there are, further on those that bear a meaning.
+func turns(place int, was byte) []byte {
+	if place >= 12 {
+		return []byte{was ^ 1, was ^ 0x80, 0, '0', ' ', 'x', '.', '-', 'e', 0xff}
+	}
+	var l []byte
+	for x := range 256 {
+		l = append(l, byte(x))
+	}
+	return l
+}
+
+// 13.3: each byte turned: what comes of it is what the bytes say.
 func TestReadTurned(t *testing.T) {
 	for _, v := range append(rights(), text("0"), text(" 1"), strnum("1e5", 1e5), strnum("-1.5 ", -1.5)) {
 		b := laid(v)
-		for i := range min(len(b), 12) {
-			was := b[i]
-			for x := range 256 {
-				b[i] = byte(x)
+		for i, was := range b {
+			for _, x := range turns(i, was) {
+				b[i] = x
 				readsPlainly(t, string(b))
 				readsPlainly(t, string(b)+"\x00")
 				readsPlainly(t, string(b)+"x")
